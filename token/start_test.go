@@ -2,7 +2,12 @@ package token
 
 import (
 	"fmt"
+	"go/ast"
+	"go/parser"
+	gotoken "go/token"
+	"path/filepath"
 	"slices"
+	"strings"
 	"testing"
 
 	"waypost/api"
@@ -68,5 +73,76 @@ func TestSetsFromTheStart(t *testing.T) {
 	}
 	if !slices.Equal(byteset.List(capitals), upper) || !slices.Equal(byteset.List(tokenBytes), inTokens) || !slices.Equal(byteset.List(valueBytes), inValues) {
 		t.Errorf("%q %q %q", byteset.List(capitals), byteset.List(tokenBytes), byteset.List(valueBytes))
+	}
+}
+
+// ofStart returns whether an expression is one of the variables from the start.
+func ofStart(e ast.Expr) bool {
+	name, ok := e.(*ast.Ident)
+	return ok && slices.Contains([]string{"capitals", "tokenBytes", "valueBytes"}, name.Name)
+}
+
+// functions are all functions of the package, without its tests.
+func functions(t *testing.T) []*ast.FuncDecl {
+	names, err := filepath.Glob("*.go")
+	if err != nil {
+		t.Fatal(err)
+	}
+	var l []*ast.FuncDecl
+	for _, name := range names {
+		if strings.HasSuffix(name, "_test.go") {
+			continue
+		}
+		file, err := parser.ParseFile(gotoken.NewFileSet(), name, nil, 0)
+		if err != nil {
+			t.Fatal(err)
+		}
+		for _, d := range file.Decls {
+			if f, ok := d.(*ast.FuncDecl); ok {
+				l = append(l, f)
+			}
+		}
+	}
+	return l
+}
+
+// dropped are the variables from the start that the function reads in statements of their own, which drop what they hold.
+func dropped(f *ast.FuncDecl) []string {
+	var l []string
+	for _, s := range f.Body.List {
+		a, ok := s.(*ast.AssignStmt)
+		if !ok || len(a.Lhs) != 1 || len(a.Rhs) != 1 || !ofStart(a.Rhs[0]) {
+			continue
+		}
+		if to, ok := a.Lhs[0].(*ast.Ident); ok && to.Name == "_" {
+			l = append(l, a.Rhs[0].(*ast.Ident).Name)
+		}
+	}
+	return l
+}
+
+// Exported functions read each of the variables, and what a variable holds goes nowhere.
+func TestStartIsReadAndDropped(t *testing.T) {
+	read := map[string]int{}
+	for _, f := range functions(t) {
+		uses := 0
+		ast.Inspect(f, func(n ast.Node) bool {
+			if e, ok := n.(ast.Expr); ok && ofStart(e) {
+				uses++
+			}
+			return true
+		})
+		names := dropped(f)
+		if uses != len(names) {
+			t.Errorf("%s computes with a variable from the start", f.Name.Name)
+		}
+		for _, name := range names {
+			if f.Name.IsExported() {
+				read[name]++
+			}
+		}
+	}
+	if len(read) != 3 {
+		t.Errorf("exported functions read only %v", read)
 	}
 }
